@@ -33,14 +33,34 @@ func TestTrialRow(t *testing.T) {
 	}
 }
 
-// P1.6: each way in which a row is not as said.
-func TestReadRows(t *testing.T) {
-	const mass, weighing, balance, trial = "mass 5 0 0\n", "weighing 0 1 0 0\n", "scale 0 0 0 0\n", "trial 0 0 0 5\n"
-	for _, c := range []struct {
-		text string
-		row  int
-		e    api.Errno
-	}{
+// Rows that are right, each as short as can be.
+const (
+	mass     = "mass 5 0 0\n"
+	weighing = "weighing 0 1 0 0\n"
+	balance  = "scale 0 0 0 0\n"
+	trial    = "trial 0 0 0 5\n"
+)
+
+// paperCase is a text, and what Read returns of it beside the bench.
+type paperCase struct {
+	text string
+	row  int
+	e    api.Errno
+}
+
+func holdRows(t *testing.T, cases []paperCase) {
+	t.Helper()
+	for _, c := range cases {
+		b, row, e := scale.Read(c.text)
+		if row != c.row || e != c.e || e != api.OK && !same(b, api.Bench{}) {
+			t.Errorf("%q: %v %d %v", c.text, b, row, e)
+		}
+	}
+}
+
+// P1.6: rows come in their order, and there is an end, behind which nothing comes.
+func TestReadOrder(t *testing.T) {
+	holdRows(t, []paperCase{
 		{mass + balance + "end 0\n", 0, api.OK},
 		{mass + mass + weighing + balance + trial + "end 0\n", 0, api.OK},
 		{"", 1, api.ErrForm},
@@ -60,6 +80,12 @@ func TestReadRows(t *testing.T) {
 		{mass + mass + balance + weighing + "end 0\n", 4, api.ErrForm},
 		{mass + trial + balance + "end 0\n", 3, api.ErrForm},
 		{mass + mass + trial + weighing + "end 0\n", 4, api.ErrForm},
+	})
+}
+
+// P1.6: each way in which the words of a row are not as said.
+func TestReadWords(t *testing.T) {
+	holdRows(t, []paperCase{
 		{"mass 5 0\n", 1, api.ErrForm},
 		{"mass 5 0 0 0\n", 1, api.ErrForm},
 		{"mass\n", 1, api.ErrForm},
@@ -82,6 +108,12 @@ func TestReadRows(t *testing.T) {
 		{"mass 12345678 0 0\n", 1, api.ErrForm},
 		{"mass 5 -12345678 0\n", 1, api.ErrForm},
 		{"mass 99999999999999999999 0 0\n", 1, api.ErrForm},
+	})
+}
+
+// P1.6: what is as said has the errors of its bench; a text that is too long is not looked at.
+func TestReadErrors(t *testing.T) {
+	holdRows(t, []paperCase{
 		{"mass 1000001 0 0\n" + balance + "end 0\n", 0, api.ErrRange},
 		{"mass 5 -1234567 0\n" + balance + "end 0\n", 0, api.ErrRange},
 		{"mass 5 1 0\n" + balance + "end 0\n", 0, api.ErrOrder},
@@ -96,12 +128,7 @@ func TestReadRows(t *testing.T) {
 		{strings.Repeat("x", api.MaxPaper), 1, api.ErrForm},
 		{strings.Repeat("x", api.MaxPaper+1), 0, api.ErrLong},
 		{paper + strings.Repeat("x", api.MaxPaper), 0, api.ErrLong},
-	} {
-		b, row, e := scale.Read(c.text)
-		if row != c.row || e != c.e || e != api.OK && !same(b, api.Bench{}) {
-			t.Errorf("%q: %v %d %v", c.text, b, row, e)
-		}
-	}
+	})
 }
 
 // P1.14: a paper is read from its bench.
