@@ -4,6 +4,7 @@ import (
 	"cmp"
 
 	"shambles/api"
+	"shambles/bounds"
 )
 
 // Check returns the first error of a bench.
@@ -12,41 +13,14 @@ func Check(b api.Bench) api.Errno {
 		checkMasses(b),
 		checkWeighings(b),
 		checkScales(b),
-		within(b.Days, 0, api.MaxWatch),
+		bounds.Within(b.Days, 0, api.MaxWatch),
 		checkTrials(b),
 	)
 }
 
-// within returns ErrRange unless a number is from least to most.
-func within(number, least, most int) api.Errno {
-	if number < least || number > most {
-		return api.ErrRange
-	}
-	return api.OK
-}
-
-// named returns ErrMissing unless a number is that of one of so many things.
-func named(number, many int) api.Errno {
-	if number < 0 || number >= many {
-		return api.ErrMissing
-	}
-	return api.OK
-}
-
-// counted returns an error unless there are from least to most things.
-func counted(many, least, most int) api.Errno {
-	switch {
-	case many < least:
-		return api.ErrShort
-	case many > most:
-		return api.ErrFull
-	}
-	return api.OK
-}
-
 // checkSpan returns the error of a span from -bound to bound.
 func checkSpan(s api.Span, bound int) api.Errno {
-	if e := cmp.Or(within(s.Lo, -bound, bound), within(s.Hi, -bound, bound)); e != api.OK {
+	if e := cmp.Or(bounds.Within(s.Lo, -bound, bound), bounds.Within(s.Hi, -bound, bound)); e != api.OK {
 		return e
 	}
 	if s.Lo > s.Hi {
@@ -56,11 +30,11 @@ func checkSpan(s api.Span, bound int) api.Errno {
 }
 
 func checkMasses(b api.Bench) api.Errno {
-	if e := counted(len(b.Masses), 1, api.MaxMasses); e != api.OK {
+	if e := bounds.Counted(len(b.Masses), 1, api.MaxMasses); e != api.OK {
 		return e
 	}
 	for _, m := range b.Masses {
-		if e := cmp.Or(within(m.Nominal, 1, api.MaxNominal), checkSpan(m.Off, api.MaxOff)); e != api.OK {
+		if e := cmp.Or(bounds.Within(m.Nominal, 1, api.MaxNominal), checkSpan(m.Off, api.MaxOff)); e != api.OK {
 			return e
 		}
 	}
@@ -68,11 +42,11 @@ func checkMasses(b api.Bench) api.Errno {
 }
 
 func checkWeighings(b api.Bench) api.Errno {
-	if e := counted(len(b.Weighings), 0, api.MaxWeighings); e != api.OK {
+	if e := bounds.Counted(len(b.Weighings), 0, api.MaxWeighings); e != api.OK {
 		return e
 	}
 	for _, w := range b.Weighings {
-		if e := cmp.Or(named(w.A, len(b.Masses)), named(w.B, len(b.Masses))); e != api.OK {
+		if e := cmp.Or(bounds.Named(w.A, len(b.Masses)), bounds.Named(w.B, len(b.Masses))); e != api.OK {
 			return e
 		}
 		if w.A == w.B {
@@ -86,7 +60,7 @@ func checkWeighings(b api.Bench) api.Errno {
 }
 
 func checkScales(b api.Bench) api.Errno {
-	if e := counted(len(b.Scales), 1, api.MaxScales); e != api.OK {
+	if e := bounds.Counted(len(b.Scales), 1, api.MaxScales); e != api.OK {
 		return e
 	}
 	for _, s := range b.Scales {
@@ -98,15 +72,15 @@ func checkScales(b api.Bench) api.Errno {
 }
 
 func checkTrials(b api.Bench) api.Errno {
-	if e := counted(len(b.Trials), 0, api.MaxTrials); e != api.OK {
+	if e := bounds.Counted(len(b.Trials), 0, api.MaxTrials); e != api.OK {
 		return e
 	}
 	for _, t := range b.Trials {
 		e := cmp.Or(
-			named(t.Scale, len(b.Scales)),
-			named(t.Mass, len(b.Masses)),
-			within(t.Day, 0, b.Days),
-			within(t.Shown, 0, 2*api.MaxNominal),
+			bounds.Named(t.Scale, len(b.Scales)),
+			bounds.Named(t.Mass, len(b.Masses)),
+			bounds.Within(t.Day, 0, b.Days),
+			bounds.Within(t.Shown, 0, 2*api.MaxNominal),
 		)
 		if e != api.OK {
 			return e

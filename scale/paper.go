@@ -5,6 +5,7 @@ import (
 	"strings"
 
 	"shambles/api"
+	"shambles/rows"
 )
 
 // maxDigits is how many digits a number of a paper has at most.
@@ -45,14 +46,8 @@ func Read(text string) (b api.Bench, row int, e api.Errno) {
 		return api.Bench{}, 0, api.ErrLong
 	}
 	var r reader
-	// The last piece is what stands behind the last line feed: nothing, if all is well.
-	for i, piece := range strings.SplitAfter(text, "\n") {
-		if r.part == ended && piece == "" {
-			break
-		}
-		if !r.take(piece) {
-			return api.Bench{}, i + 1, api.ErrForm
-		}
+	if row := rows.FirstWrong(text, r.take); row > 0 {
+		return api.Bench{}, row, api.ErrForm
 	}
 	if e := Check(r.bench); e != api.OK {
 		return api.Bench{}, 0, e
@@ -75,13 +70,11 @@ type reader struct {
 	part  int
 }
 
-// take reads a row, and says whether it is as it has to be.
-func (r *reader) take(piece string) bool {
-	row, whole := strings.CutSuffix(piece, "\n")
-	words := strings.Split(row, " ")
+// take keeps what the words of a row say, and says whether they are as they have to be.
+func (r *reader) take(words []string) bool {
 	part, many, keep := r.kind(words[0])
-	numbers, ok := numbersOf(words[1:])
-	if !whole || !ok || keep == nil || len(numbers) != many || part < r.part || r.part == ended {
+	numbers, ok := rows.All(words[1:], maxDigits, rows.Number)
+	if !ok || keep == nil || len(numbers) != many || part < r.part {
 		return false
 	}
 	r.part = part
@@ -123,25 +116,3 @@ func (r *reader) trial(n []int) {
 }
 
 func (r *reader) end(n []int) { r.bench.Days = n[0] }
-
-// numbersOf returns the numbers that words are, and whether all of them are numbers.
-func numbersOf(words []string) ([]int, bool) {
-	var numbers []int
-	for _, word := range words {
-		n, ok := number(word)
-		if !ok {
-			return nil, false
-		}
-		numbers = append(numbers, n)
-	}
-	return numbers, true
-}
-
-// number returns the number that a word is. Only one word is right for each number: the one that would be written.
-func number(word string) (int, bool) {
-	if len(strings.TrimPrefix(word, "-")) > maxDigits {
-		return 0, false
-	}
-	n, err := strconv.Atoi(word)
-	return n, err == nil && strconv.Itoa(n) == word
-}

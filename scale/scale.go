@@ -5,6 +5,7 @@ import (
 	"cmp"
 
 	"shambles/api"
+	"shambles/bounds"
 )
 
 // Offs returns for each mass the least and the greatest number by which it may be off.
@@ -25,7 +26,7 @@ func Offs(b api.Bench) ([]api.Span, api.Errno) {
 
 // Errors returns for each day the least and the greatest error that a scale may have.
 func Errors(b api.Bench, scale int) ([]api.Span, api.Errno) {
-	if e := cmp.Or(Check(b), named(scale, len(b.Scales))); e != api.OK {
+	if e := cmp.Or(Check(b), bounds.Named(scale, len(b.Scales))); e != api.OK {
 		return nil, e
 	}
 	t, ok := known(b)
@@ -41,7 +42,7 @@ func Errors(b api.Bench, scale int) ([]api.Span, api.Errno) {
 
 // errorOn returns the least and the greatest error that a scale may have on a day; e is an error of the caller's own that comes after those of the bench, the scale and the day.
 func errorOn(b api.Bench, scale, day int, e api.Errno) (api.Span, api.Errno) {
-	e = cmp.Or(Check(b), named(scale, len(b.Scales)), within(day, 0, b.Days), e)
+	e = cmp.Or(Check(b), bounds.Named(scale, len(b.Scales)), bounds.Within(day, 0, b.Days), e)
 	if e != api.OK {
 		return api.Span{}, e
 	}
@@ -54,7 +55,7 @@ func errorOn(b api.Bench, scale, day int, e api.Errno) (api.Span, api.Errno) {
 
 // Weight returns the least and the greatest weight that may truly lie on a scale that shows a number on a day.
 func Weight(b api.Bench, scale, day, shown int) (api.Span, api.Errno) {
-	s, e := errorOn(b, scale, day, within(shown, 0, 2*api.MaxNominal))
+	s, e := errorOn(b, scale, day, bounds.Within(shown, 0, 2*api.MaxNominal))
 	if e != api.OK {
 		return api.Span{}, e
 	}
@@ -63,7 +64,7 @@ func Weight(b api.Bench, scale, day, shown int) (api.Span, api.Errno) {
 
 // Keeps returns the verdict whether a scale is within a limit on a day.
 func Keeps(b api.Bench, scale, day, limit int) (int, api.Errno) {
-	s, e := errorOn(b, scale, day, within(limit, 0, api.MaxOff))
+	s, e := errorOn(b, scale, day, bounds.Within(limit, 0, api.MaxOff))
 	if e != api.OK {
 		return 0, e
 	}
@@ -94,7 +95,7 @@ func Clash(b api.Bench) ([]int, api.Errno) {
 
 // Lasts returns for how many days a scale is surely within the limit, or -1.
 func Lasts(after, drift api.Span, limit int) (int, api.Errno) {
-	e := cmp.Or(checkSpan(after, api.MaxOff), checkSpan(drift, api.MaxOff), within(limit, 0, api.MaxOff))
+	e := cmp.Or(checkSpan(after, api.MaxOff), checkSpan(drift, api.MaxOff), bounds.Within(limit, 0, api.MaxOff))
 	if e != api.OK {
 		return 0, e
 	}

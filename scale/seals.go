@@ -6,6 +6,7 @@ import (
 	"math/bits"
 
 	"shambles/api"
+	"shambles/bounds"
 )
 
 // Plan returns the latest one of the plans that keep all sealed with the fewest tests.
@@ -33,18 +34,18 @@ func Plan(s api.Seals) ([]api.Test, api.Errno) {
 
 // checkSeals returns the first error of seals.
 func checkSeals(s api.Seals) api.Errno {
-	if e := counted(len(s.Left), 1, api.MaxSealed); e != api.OK {
+	if e := bounds.Counted(len(s.Left), 1, api.MaxSealed); e != api.OK {
 		return e
 	}
 	if len(s.Every) != len(s.Left) {
 		return api.ErrForm
 	}
-	e := cmp.Or(within(s.Days, 0, api.MaxTerm), within(s.Most, 0, api.MaxSealed))
+	e := cmp.Or(bounds.Within(s.Days, 0, api.MaxTerm), bounds.Within(s.Most, 0, api.MaxSealed))
 	for _, day := range s.Left {
-		e = cmp.Or(e, within(day, -1, api.MaxTerm))
+		e = cmp.Or(e, bounds.Within(day, -1, api.MaxTerm))
 	}
 	for _, days := range s.Every {
-		e = cmp.Or(e, within(days, 0, api.MaxTerm))
+		e = cmp.Or(e, bounds.Within(days, 0, api.MaxTerm))
 	}
 	return e
 }

@@ -1,0 +1,81 @@
+package rows_test
+
+import (
+	"slices"
+	"strings"
+	"testing"
+
+	"shambles/rows"
+)
+
+func TestFirstWrong(t *testing.T) {
+	for _, c := range []struct {
+		text string
+		row  int
+		kept string
+	}{
+		{"end\n", 0, "end"},
+		{"a b\nend 1\n", 0, "a,b;end,1"},
+		{"a  b\nend\n", 0, "a,,b;end"},
+		{" a\n\nend\n", 0, ",a;;end"},
+		{"end a\r\n", 0, "end,a\r"},
+		{"", 1, ""},
+		{"a", 1, ""},
+		{"end", 1, ""},
+		{"a\n", 2, "a"},
+		{"a\nend", 2, "a"},
+		{"a\nbad\nend\n", 2, "a;bad"},
+		{"a\nend\n\n", 3, "a;end"},
+		{"a\nend\nx", 3, "a;end"},
+		{"a\nend\nend\n", 3, "a;end"},
+		{"ends\n", 2, "ends"},
+	} {
+		var kept []string
+		row := rows.FirstWrong(c.text, func(words []string) bool {
+			kept = append(kept, strings.Join(words, ","))
+			return words[0] != "bad"
+		})
+		if row != c.row || strings.Join(kept, ";") != c.kept {
+			t.Errorf("%q: %d %q", c.text, row, kept)
+		}
+	}
+}
+
+func TestNumbers(t *testing.T) {
+	for _, c := range []struct {
+		word            string
+		n               int
+		number, natural bool
+	}{
+		{"0", 0, true, true}, {"7", 7, true, true}, {"100", 100, true, true}, {"999", 999, true, true},
+		{"-1", -1, true, false}, {"-999", -999, true, false},
+		{"1000", 0, false, false}, {"-1000", 0, false, false}, {"99999999999999999999", 0, false, false},
+		{"", 0, false, false}, {"-", 0, false, false}, {"--1", 0, false, false}, {"-0", 0, false, false},
+		{"00", 0, false, false}, {"01", 0, false, false}, {"-01", 0, false, false}, {"+1", 0, false, false},
+		{"x", 0, false, false}, {"1x", 0, false, false}, {"1_0", 0, false, false}, {"0x1", 0, false, false},
+		{" 1", 0, false, false}, {"1\r", 0, false, false}, {"\u0661", 0, false, false},
+	} {
+		if n, ok := rows.Number(c.word, 3); n != c.n || ok != c.number {
+			t.Errorf("Number %q: %d %v", c.word, n, ok)
+		}
+		if n, ok := rows.Natural(c.word, 3); n != max(c.n, 0) || ok != c.natural {
+			t.Errorf("Natural %q: %d %v", c.word, n, ok)
+		}
+	}
+}
+
+func TestAll(t *testing.T) {
+	words := []string{"1", "-2", "33"}
+	if n, ok := rows.All(words, 2, rows.Number); !ok || !slices.Equal(n, []int{1, -2, 33}) {
+		t.Error(n, ok)
+	}
+	if n, ok := rows.All(words, 2, rows.Natural); ok || n != nil {
+		t.Error(n, ok)
+	}
+	if n, ok := rows.All(words, 1, rows.Number); ok || n != nil {
+		t.Error(n, ok)
+	}
+	if n, ok := rows.All(nil, 1, rows.Number); !ok || n != nil {
+		t.Error(n, ok)
+	}
+}
