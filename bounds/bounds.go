@@ -1,7 +1,11 @@
 // Package bounds has the checks of numbers that all layers share.
 package bounds
 
-import "shambles/api"
+import (
+	"cmp"
+
+	"shambles/api"
+)
 
 // Within returns ErrRange unless a number is from least to most.
 func Within(number, least, most int) api.Errno {
@@ -26,6 +30,17 @@ func Counted(many, least, most int) api.Errno {
 		return api.ErrShort
 	case many > most:
 		return api.ErrFull
+	}
+	return api.OK
+}
+
+// Span returns the error of a span unless both of its numbers are from least to most, in their order.
+func Span(s api.Span, least, most int) api.Errno {
+	if e := cmp.Or(Within(s.Lo, least, most), Within(s.Hi, least, most)); e != api.OK {
+		return e
+	}
+	if s.Lo > s.Hi {
+		return api.ErrOrder
 	}
 	return api.OK
 }

@@ -34,3 +34,19 @@ func TestBounds(t *testing.T) {
 		}
 	}
 }
+
+func TestSpan(t *testing.T) {
+	for _, c := range []struct {
+		low, high int
+		want      api.Errno
+	}{
+		{-2, 4, api.OK}, {-2, -2, api.OK}, {4, 4, api.OK}, {0, 1, api.OK},
+		{-3, 4, api.ErrRange}, {-2, 5, api.ErrRange}, {5, 5, api.ErrRange}, {-3, -3, api.ErrRange},
+		{1, 0, api.ErrOrder}, {4, -2, api.ErrOrder},
+		{5, 0, api.ErrRange}, {0, -3, api.ErrRange}, {math.MaxInt, math.MinInt, api.ErrRange}, {math.MinInt, math.MaxInt, api.ErrRange},
+	} {
+		if e := bounds.Span(api.Span{Lo: c.low, Hi: c.high}, -2, 4); e != c.want {
+			t.Error(c.low, c.high, e)
+		}
+	}
+}

@@ -1,10 +1,21 @@
-// Package rows reads the texts that layers write byte for byte: rows of words, each ended by a line feed, the last one with the word "end".
+// Package rows reads and writes the texts that layers have byte for byte: rows of words, each ended by a line feed, the last one with the word "end".
 package rows
 
 import (
 	"strconv"
 	"strings"
 )
+
+// Row returns the row of a word and numbers.
+func Row(word string, numbers ...int) string {
+	var row strings.Builder
+	row.WriteString(word)
+	for _, n := range numbers {
+		row.WriteString(" " + strconv.Itoa(n))
+	}
+	row.WriteString("\n")
+	return row.String()
+}
 
 // FirstWrong hands the words of each row to keep, which says whether they are as they have to be, and returns the number of the first row that is not (from 1 on), or 0 if there is none.
 func FirstWrong(text string, keep func(words []string) bool) int {

@@ -8,6 +8,15 @@ import (
 	"shambles/rows"
 )
 
+func TestRow(t *testing.T) {
+	if s := rows.Row("a"); s != "a\n" {
+		t.Errorf("%q", s)
+	}
+	if s := rows.Row("a", 1, -20, 0); s != "a 1 -20 0\n" {
+		t.Errorf("%q", s)
+	}
+}
+
 func TestFirstWrong(t *testing.T) {
 	for _, c := range []struct {
 		text string

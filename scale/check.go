@@ -19,15 +19,7 @@ func Check(b api.Bench) api.Errno {
 }
 
 // checkSpan returns the error of a span from -bound to bound.
-func checkSpan(s api.Span, bound int) api.Errno {
-	if e := cmp.Or(bounds.Within(s.Lo, -bound, bound), bounds.Within(s.Hi, -bound, bound)); e != api.OK {
-		return e
-	}
-	if s.Lo > s.Hi {
-		return api.ErrOrder
-	}
-	return api.OK
-}
+func checkSpan(s api.Span, bound int) api.Errno { return bounds.Span(s, -bound, bound) }
 
 func checkMasses(b api.Bench) api.Errno {
 	if e := bounds.Counted(len(b.Masses), 1, api.MaxMasses); e != api.OK {

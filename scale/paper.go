@@ -1,7 +1,6 @@
 package scale
 
 import (
-	"strconv"
 	"strings"
 
 	"shambles/api"
@@ -17,13 +16,7 @@ func Write(b api.Bench) (string, api.Errno) {
 		return "", e
 	}
 	var paper strings.Builder
-	row := func(word string, numbers ...int) {
-		paper.WriteString(word)
-		for _, n := range numbers {
-			paper.WriteString(" " + strconv.Itoa(n))
-		}
-		paper.WriteString("\n")
-	}
+	row := func(word string, numbers ...int) { paper.WriteString(rows.Row(word, numbers...)) }
 	for _, m := range b.Masses {
 		row("mass", m.Nominal, m.Off.Lo, m.Off.Hi)
 	}
