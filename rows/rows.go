@@ -4,6 +4,8 @@ package rows
 import (
 	"strconv"
 	"strings"
+
+	"shambles/api"
 )
 
 // Row returns the row of a word and numbers.
@@ -17,8 +19,19 @@ func Row(word string, numbers ...int) string {
 	return row.String()
 }
 
-// FirstWrong hands the words of each row to keep, which says whether they are as they have to be, and returns the number of the first row that is not (from 1 on), or 0 if there is none.
-func FirstWrong(text string, keep func(words []string) bool) int {
+// Read hands the words of each row of a text to keep, which says whether they are as they have to be. It returns ErrLong for a text of more than most bytes; ErrForm and the number of the first row (from 1 on) that is not as it has to be; otherwise what check says of all that was kept.
+func Read(text string, most int, keep func(words []string) bool, check func() api.Errno) (row int, e api.Errno) {
+	if len(text) > most {
+		return 0, api.ErrLong
+	}
+	if row := firstWrong(text, keep); row > 0 {
+		return row, api.ErrForm
+	}
+	return 0, check()
+}
+
+// firstWrong returns the number of the first row that is not as it has to be, or 0 if there is none.
+func firstWrong(text string, keep func(words []string) bool) int {
 	ended := false
 	// The last piece is what stands behind the last line feed: nothing, if all is well.
 	for i, piece := range strings.SplitAfter(text, "\n") {

@@ -5,6 +5,7 @@ import (
 	"strings"
 	"testing"
 
+	"shambles/api"
 	"shambles/rows"
 )
 
@@ -17,7 +18,7 @@ func TestRow(t *testing.T) {
 	}
 }
 
-func TestFirstWrong(t *testing.T) {
+func TestRead(t *testing.T) {
 	for _, c := range []struct {
 		text string
 		row  int
@@ -40,12 +41,38 @@ func TestFirstWrong(t *testing.T) {
 		{"ends\n", 2, "ends"},
 	} {
 		var kept []string
-		row := rows.FirstWrong(c.text, func(words []string) bool {
+		keep := func(words []string) bool {
 			kept = append(kept, strings.Join(words, ","))
 			return words[0] != "bad"
-		})
-		if row != c.row || strings.Join(kept, ";") != c.kept {
-			t.Errorf("%q: %d %q", c.text, row, kept)
+		}
+		want := api.ErrForm
+		if c.row == 0 {
+			want = api.ErrClash
+		}
+		row, e := rows.Read(c.text, 10, keep, func() api.Errno { return api.ErrClash })
+		if row != c.row || e != want || strings.Join(kept, ";") != c.kept {
+			t.Errorf("%q: %d %v %q", c.text, row, e, kept)
+		}
+	}
+}
+
+func TestReadLong(t *testing.T) {
+	keep := func(words []string) bool { return words[0] == "end" }
+	check := func() api.Errno { return api.OK }
+	for _, c := range []struct {
+		text string
+		row  int
+		want api.Errno
+	}{
+		{"end\n", 0, api.OK},
+		{"end12\n", 1, api.ErrForm},
+		{"end 1\n", 0, api.OK},
+		{"end 12\n", 0, api.ErrLong},
+		{"xxxxxxx", 0, api.ErrLong},
+		{"\u0661\u0661\u0661\u0661", 0, api.ErrLong},
+	} {
+		if row, e := rows.Read(c.text, 6, keep, check); row != c.row || e != c.want {
+			t.Errorf("%q: %d %v", c.text, row, e)
 		}
 	}
 }

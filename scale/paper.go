@@ -35,15 +35,10 @@ func Write(b api.Bench) (string, api.Errno) {
 
 // Read returns the bench of a paper, or the number of the first row that is not as it has to be.
 func Read(text string) (b api.Bench, row int, e api.Errno) {
-	if len(text) > api.MaxPaper {
-		return api.Bench{}, 0, api.ErrLong
-	}
 	var r reader
-	if row := rows.FirstWrong(text, r.take); row > 0 {
-		return api.Bench{}, row, api.ErrForm
-	}
-	if e := Check(r.bench); e != api.OK {
-		return api.Bench{}, 0, e
+	check := func() api.Errno { return Check(r.bench) }
+	if row, e := rows.Read(text, api.MaxPaper, r.take, check); e != api.OK {
+		return api.Bench{}, row, e
 	}
 	return r.bench, 0, api.OK
 }

@@ -47,15 +47,10 @@ func heirWord(heir int) string {
 
 // Read returns the letting of a roll, or the number of the first row that is not as it has to be.
 func Read(text string) (l api.Letting, row int, e api.Errno) {
-	if len(text) > api.MaxRoll {
-		return api.Letting{}, 0, api.ErrLong
-	}
 	var r reader
-	if row := rows.FirstWrong(text, r.take); row > 0 {
-		return api.Letting{}, row, api.ErrForm
-	}
-	if e := Check(r.letting); e != api.OK {
-		return api.Letting{}, 0, e
+	check := func() api.Errno { return Check(r.letting) }
+	if row, e := rows.Read(text, api.MaxRoll, r.take, check); e != api.OK {
+		return api.Letting{}, row, e
 	}
 	return r.letting, 0, api.OK
 }

@@ -41,15 +41,10 @@ func Write(h api.Hall) (string, api.Errno) {
 
 // Read returns the hall of a drawing, or the number of the first row that is not as it has to be.
 func Read(text string) (h api.Hall, row int, e api.Errno) {
-	if len(text) > api.MaxDrawing {
-		return api.Hall{}, 0, api.ErrLong
-	}
 	var r reader
-	if row := rows.FirstWrong(text, r.take); row > 0 {
-		return api.Hall{}, row, api.ErrForm
-	}
-	if e := Check(r.hall); e != api.OK {
-		return api.Hall{}, 0, e
+	check := func() api.Errno { return Check(r.hall) }
+	if row, e := rows.Read(text, api.MaxDrawing, r.take, check); e != api.OK {
+		return api.Hall{}, row, e
 	}
 	return r.hall, 0, api.OK
 }
