@@ -44,3 +44,11 @@ func Span(s api.Span, least, most int) api.Errno {
 	}
 	return api.OK
 }
+
+// Unless returns an error unless something holds.
+func Unless(holds bool, e api.Errno) api.Errno {
+	if holds {
+		return api.OK
+	}
+	return e
+}

@@ -50,3 +50,12 @@ func TestSpan(t *testing.T) {
 		}
 	}
 }
+
+func TestUnless(t *testing.T) {
+	if e := bounds.Unless(true, api.ErrClash); e != api.OK {
+		t.Error(e)
+	}
+	if e := bounds.Unless(false, api.ErrClash); e != api.ErrClash {
+		t.Error(e)
+	}
+}

@@ -20,14 +20,6 @@ func Check(c api.Cellar) api.Errno {
 // CheckLot returns the first error of a cellar, then that of a lot.
 func CheckLot(c api.Cellar, l api.Lot) api.Errno { return cmp.Or(Check(c), checkLot(c, l)) }
 
-// unless returns an error if something does not hold.
-func unless(holds bool, e api.Errno) api.Errno {
-	if holds {
-		return api.OK
-	}
-	return e
-}
-
 func checkWarmth(s api.Span) api.Errno { return bounds.Span(s, api.MinWarm, api.MaxWarm) }
 
 func checkHour(hour int) api.Errno { return bounds.Within(hour, 0, api.MaxHours-1) }
@@ -45,7 +37,7 @@ func checkBoxes(boxes []api.Box) api.Errno {
 			bounds.Span(b.Melt, 0, api.MaxIce),
 			checkWarmth(b.Cold),
 			checkWarmth(b.Warm),
-			unless(b.Cold.Hi <= b.Warm.Lo, api.ErrClash),
+			bounds.Unless(b.Cold.Hi <= b.Warm.Lo, api.ErrClash),
 		)
 		if e != api.OK {
 			return e
@@ -64,7 +56,7 @@ func checkFillings(c api.Cellar) api.Errno {
 			checkBox(c, f.Box),
 			checkHour(f.Hour),
 			bounds.Within(f.Grams, 0, api.MaxIce),
-			unless(f.Hour >= before, api.ErrOrder),
+			bounds.Unless(f.Hour >= before, api.ErrOrder),
 		)
 		if e != api.OK {
 			return e
@@ -83,7 +75,7 @@ func checkRates(rates []api.Rate) api.Errno {
 		e := cmp.Or(
 			bounds.Within(r.Above, api.MinWarm, api.MaxWarm),
 			bounds.Within(r.Loss, 0, api.MaxLoss),
-			unless(r.Above > before.Above && r.Loss >= before.Loss, api.ErrOrder),
+			bounds.Unless(r.Above > before.Above && r.Loss >= before.Loss, api.ErrOrder),
 		)
 		if e != api.OK {
 			return e
@@ -110,7 +102,7 @@ func checkLot(c api.Cellar, l api.Lot) api.Errno {
 			checkBox(c, s.Box),
 			bounds.Within(s.From, 0, api.MaxHours),
 			bounds.Within(s.To, 0, api.MaxHours),
-			unless(s.From < s.To && s.From >= free, api.ErrOrder),
+			bounds.Unless(s.From < s.To && s.From >= free, api.ErrOrder),
 		)
 		if e != api.OK {
 			return e
@@ -139,7 +131,7 @@ func checkVisits(visits []int) api.Errno {
 	}
 	before := -1
 	for _, hour := range visits {
-		if e := cmp.Or(checkHour(hour), unless(hour > before, api.ErrOrder)); e != api.OK {
+		if e := cmp.Or(checkHour(hour), bounds.Unless(hour > before, api.ErrOrder)); e != api.OK {
 			return e
 		}
 		before = hour

@@ -1,0 +1,169 @@
+package trace
+
+import (
+	"iter"
+	"slices"
+
+	"shambles/api"
+)
+
+// outside is where the goods come from that batches have at first.
+const outside = -1
+
+// place is a batch from when so many moves are done, until another move takes some of it or brings some.
+type place struct{ batch, since int }
+
+// placeOf returns the place of a batch when so many moves are done.
+func placeOf(n api.Net, batch, done int) place {
+	for done > 0 && n.Moves[done-1].From != batch && n.Moves[done-1].To != batch {
+		done--
+	}
+	return place{batch, done}
+}
+
+// edge says that so many grams go from one place to another one.
+type edge struct {
+	from, to place
+	grams    int
+}
+
+// edges hands out how goods go: into each batch at first, and then, move by move, what is left, what is moved, and what is there already. As many grams come to a place as leave it, or stay there at the end: whatever goods are in a place, there is room for them from then on.
+func edges(n api.Net) iter.Seq[edge] {
+	return func(yield func(edge) bool) {
+		for batch, grams := range n.Batches {
+			if !yield(edge{place{batch: outside}, place{batch: batch}, grams}) {
+				return
+			}
+		}
+		holds := slices.Clone(n.Batches)
+		for i, m := range n.Moves {
+			from, to := placeOf(n, m.From, i), placeOf(n, m.To, i)
+			rest, mixed := placeOf(n, m.From, i+1), placeOf(n, m.To, i+1)
+			holds[m.From] -= m.Grams
+			if !yield(edge{from, rest, holds[m.From]}) || !yield(edge{from, mixed, m.Grams}) || !yield(edge{to, mixed, holds[m.To]}) {
+				return
+			}
+			holds[m.To] += m.Grams
+		}
+	}
+}
+
+// maxEdges is how many edges a net has at most.
+const maxEdges = api.MaxBatches + 3*api.MaxMoves
+
+// room is how many grams each arc still takes.
+type room [2 * maxEdges]int
+
+// arc leads to a place. Those with even numbers go along the edges, each with the next number goes back against its edge: there is room on it for what goes along, as that may be sent on another way.
+type arc struct{ number, to int }
+
+// course is a valid net over time.
+type course struct {
+	net    api.Net
+	places map[place]int
+	// By the numbers of places: what each of them has, and the arcs that leave it.
+	grams []int
+	arcs  [][]arc
+	empty room
+}
+
+func courseOf(n api.Net) *course {
+	c := &course{net: n, places: map[place]int{}}
+	next := 0
+	for e := range edges(n) {
+		from, to := c.number(e.from), c.number(e.to)
+		c.arcs[from] = append(c.arcs[from], arc{next, to})
+		c.arcs[to] = append(c.arcs[to], arc{next + 1, from})
+		c.grams[to] += e.grams
+		c.empty[next] = e.grams
+		next += 2
+	}
+	return c
+}
+
+// number returns the number of a place: 0 for the outside, as the first edge comes from there.
+func (c *course) number(p place) int {
+	number, ok := c.places[p]
+	if !ok {
+		number = len(c.places)
+		c.places[p] = number
+		c.grams = append(c.grams, 0)
+		c.arcs = append(c.arcs, nil)
+	}
+	return number
+}
+
+// open returns the room before anything flows, if only some origins have goods at first.
+func (c *course) open(origins set) room {
+	left := c.empty
+	// The edges into batches are the first ones.
+	for batch := range c.net.Batches {
+		if !origins.has(batch) {
+			left[2*batch] = 0
+		}
+	}
+	return left
+}
+
+// most returns how many grams of some origins a place may have at most: as many as can flow there. All other goods of these origins have room elsewhere.
+func (c *course) most(origins set, target int) int {
+	left := c.open(origins)
+	met := make([]bool, len(c.arcs))
+	var send func(at, grams, least int) int
+	// Grams are sent to the target on one way, on arcs that each take at least so many.
+	send = func(at, grams, least int) int {
+		if at == target {
+			return grams
+		}
+		met[at] = true
+		for _, a := range c.arcs[at] {
+			if met[a.to] || left[a.number] < least {
+				continue
+			}
+			if sent := send(a.to, min(grams, left[a.number]), least); sent > 0 {
+				left[a.number] -= sent
+				left[a.number^1] += sent
+				return sent
+			}
+		}
+		return 0
+	}
+	most := 0
+	// The widest ways are taken first: few of them are enough then, however many grams there are.
+	for least := c.grams[target]; least > 0; {
+		clear(met)
+		sent := send(0, c.grams[target], least)
+		most += sent
+		if sent == 0 {
+			least /= 2
+		}
+	}
+	return most
+}
+
+// span returns the least and the greatest number of grams of some origins that a batch may have when so many moves are done.
+func (c *course) span(origins set, batch, done int) api.Span {
+	at := c.places[placeOf(c.net, batch, done)]
+	// There is least of these origins where there is most of all others.
+	return api.Span{Lo: c.grams[at] - c.most(^origins, at), Hi: c.most(origins, at)}
+}
+
+// reach returns the span of each batch at the end.
+func (c *course) reach(origins set) []api.Span {
+	spans := make([]api.Span, len(c.net.Batches))
+	for batch := range spans {
+		spans[batch] = c.span(origins, batch, len(c.net.Moves))
+	}
+	return spans
+}
+
+// through returns how many grams of some origins each move may take.
+func (c *course) through(origins set) []api.Span {
+	spans := make([]api.Span, len(c.net.Moves))
+	for i, m := range c.net.Moves {
+		has := c.span(origins, m.From, i)
+		stays := c.grams[c.places[placeOf(c.net, m.From, i)]] - m.Grams
+		spans[i] = api.Span{Lo: max(0, has.Lo-stays), Hi: min(has.Hi, m.Grams)}
+	}
+	return spans
+}
