@@ -52,3 +52,26 @@ func Unless(holds bool, e api.Errno) api.Errno {
 	}
 	return e
 }
+
+// Listed returns the first error of a list of numbers, each of which is that of one of so many things, and greater than the one before.
+func Listed(numbers []int, many int) api.Errno {
+	before := -1
+	for _, n := range numbers {
+		if e := cmp.Or(Named(n, many), Unless(n > before, api.ErrOrder)); e != api.OK {
+			return e
+		}
+		before = n
+	}
+	return api.OK
+}
+
+// Verdict says what follows if something is so in what is best for it, and in what is worst.
+func Verdict(best, worst bool) int {
+	switch {
+	case worst:
+		return api.Sure
+	case best:
+		return api.Open
+	}
+	return api.Never
+}

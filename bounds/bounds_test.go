@@ -59,3 +59,25 @@ func TestUnless(t *testing.T) {
 		t.Error(e)
 	}
 }
+
+func TestListed(t *testing.T) {
+	for _, c := range []struct {
+		numbers []int
+		want    api.Errno
+	}{
+		{nil, api.OK}, {[]int{0}, api.OK}, {[]int{3}, api.OK}, {[]int{0, 1, 2, 3}, api.OK}, {[]int{1, 3}, api.OK},
+		{[]int{4}, api.ErrMissing}, {[]int{-1}, api.ErrMissing}, {[]int{math.MaxInt}, api.ErrMissing}, {[]int{math.MinInt}, api.ErrMissing},
+		{[]int{0, 0}, api.ErrOrder}, {[]int{2, 1}, api.ErrOrder}, {[]int{1, 3, 2}, api.ErrOrder},
+		{[]int{2, 1, 4}, api.ErrOrder}, {[]int{2, 4, 1}, api.ErrMissing}, {[]int{2, -1}, api.ErrMissing},
+	} {
+		if e := bounds.Listed(c.numbers, 4); e != c.want {
+			t.Error(c.numbers, e)
+		}
+	}
+}
+
+func TestVerdict(t *testing.T) {
+	if a, b, c := bounds.Verdict(true, true), bounds.Verdict(true, false), bounds.Verdict(false, false); a != api.Sure || b != api.Open || c != api.Never {
+		t.Error(a, b, c)
+	}
+}

@@ -21,17 +21,6 @@ func endsOf(s api.Span) ends { return ends{least: s.Lo, most: s.Hi} }
 
 func (e ends) span() api.Span { return api.Span{Lo: e[least], Hi: e[most]} }
 
-// verdict says what follows if something is so in what is best for it, and in what is worst.
-func verdict(best, worst bool) int {
-	switch {
-	case worst:
-		return api.Sure
-	case best:
-		return api.Open
-	}
-	return api.Never
-}
-
 // state is a box in an hour: the ice that it may have, and its fillings that are still to come. There is a truth in which it has the least ice in all hours, and one in which it has the most.
 type state struct {
 	box      api.Box

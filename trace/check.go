@@ -58,15 +58,5 @@ func checkBatch(batch, batches int) api.Errno { return bounds.Named(batch, batch
 
 // checkOrigins returns the first error of a net, then that of origins.
 func checkOrigins(n api.Net, origins []int) api.Errno {
-	if e := Check(n); e != api.OK {
-		return e
-	}
-	before := -1
-	for _, batch := range origins {
-		if e := cmp.Or(checkBatch(batch, len(n.Batches)), bounds.Unless(batch > before, api.ErrOrder)); e != api.OK {
-			return e
-		}
-		before = batch
-	}
-	return api.OK
+	return cmp.Or(Check(n), bounds.Listed(origins, len(n.Batches)))
 }

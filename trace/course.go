@@ -5,6 +5,7 @@ import (
 	"slices"
 
 	"shambles/api"
+	"shambles/sets"
 )
 
 // outside is where the goods come from that batches have at first.
@@ -98,7 +99,7 @@ func (c *course) open(origins set) room {
 	left := c.empty
 	// The edges into batches are the first ones.
 	for batch := range c.net.Batches {
-		if !origins.has(batch) {
+		if !sets.Has(origins, batch) {
 			left[2*batch] = 0
 		}
 	}

@@ -1,6 +1,9 @@
 package trace
 
-import "shambles/api"
+import (
+	"shambles/api"
+	"shambles/sets"
+)
 
 // finding is in which batches there surely are goods of a suspect at the end, and in which there are none.
 type finding struct{ sure, never set }
@@ -45,7 +48,7 @@ candidates:
 				continue candidates
 			}
 		}
-		if s.before(best) {
+		if sets.FewestFirst(s, best) < 0 {
 			best = s
 		}
 	}
