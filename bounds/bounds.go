@@ -1,4 +1,4 @@
-// Package bounds has the checks of numbers that all layers share.
+// Package bounds has what all layers share of numbers, spans and verdicts: their checks, and sums of spans.
 package bounds
 
 import (
@@ -63,6 +63,16 @@ func Listed(numbers []int, many int) api.Errno {
 		before = n
 	}
 	return api.OK
+}
+
+// Sum returns the least and the greatest that numbers of some spans may be together.
+func Sum(spans ...api.Span) api.Span {
+	var all api.Span
+	for _, s := range spans {
+		all.Lo += s.Lo
+		all.Hi += s.Hi
+	}
+	return all
 }
 
 // Verdict says what follows if something is so in what is best for it, and in what is worst.

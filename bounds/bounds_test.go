@@ -76,6 +76,23 @@ func TestListed(t *testing.T) {
 	}
 }
 
+func TestSum(t *testing.T) {
+	span := func(low, high int) api.Span { return api.Span{Lo: low, Hi: high} }
+	for _, c := range []struct {
+		spans []api.Span
+		want  api.Span
+	}{
+		{nil, span(0, 0)},
+		{[]api.Span{span(-2, 5)}, span(-2, 5)},
+		{[]api.Span{span(-2, 5), span(3, 3)}, span(1, 8)},
+		{[]api.Span{span(1, 2), span(10, 20), span(-300, -100)}, span(-289, -78)},
+	} {
+		if s := bounds.Sum(c.spans...); s != c.want {
+			t.Error(c.spans, s)
+		}
+	}
+}
+
 func TestVerdict(t *testing.T) {
 	if a, b, c := bounds.Verdict(true, true), bounds.Verdict(true, false), bounds.Verdict(false, false); a != api.Sure || b != api.Open || c != api.Never {
 		t.Error(a, b, c)

@@ -5,6 +5,7 @@ import (
 	"slices"
 
 	"shambles/api"
+	"shambles/flows"
 	"shambles/sets"
 )
 
@@ -52,99 +53,50 @@ func edges(n api.Net) iter.Seq[edge] {
 // maxEdges is how many edges a net has at most.
 const maxEdges = api.MaxBatches + 3*api.MaxMoves
 
-// room is how many grams each arc still takes.
-type room [2 * maxEdges]int
+// room is how many grams each edge takes.
+type room [maxEdges]int
 
-// arc leads to a place. Those with even numbers go along the edges, each with the next number goes back against its edge: there is room on it for what goes along, as that may be sent on another way.
-type arc struct{ number, to int }
-
-// course is a valid net over time.
+// course is a valid net over time: what each place has, and what flows between them.
 type course struct {
-	net    api.Net
-	places map[place]int
-	// By the numbers of places: what each of them has, and the arcs that leave it.
-	grams []int
-	arcs  [][]arc
-	empty room
+	net   api.Net
+	grams map[place]int
+	flow  flows.Net[place]
+	takes room
 }
 
 func courseOf(n api.Net) *course {
-	c := &course{net: n, places: map[place]int{}}
+	c := &course{net: n, grams: map[place]int{}}
 	next := 0
 	for e := range edges(n) {
-		from, to := c.number(e.from), c.number(e.to)
-		c.arcs[from] = append(c.arcs[from], arc{next, to})
-		c.arcs[to] = append(c.arcs[to], arc{next + 1, from})
-		c.grams[to] += e.grams
-		c.empty[next] = e.grams
-		next += 2
+		c.grams[e.to] += e.grams
+		c.flow.Join(e.from, e.to)
+		c.takes[next] = e.grams
+		next++
 	}
 	return c
 }
 
-// number returns the number of a place: 0 for the outside, as the first edge comes from there.
-func (c *course) number(p place) int {
-	number, ok := c.places[p]
-	if !ok {
-		number = len(c.places)
-		c.places[p] = number
-		c.grams = append(c.grams, 0)
-		c.arcs = append(c.arcs, nil)
-	}
-	return number
-}
-
-// open returns the room before anything flows, if only some origins have goods at first.
-func (c *course) open(origins set) room {
-	left := c.empty
+// left returns the room that is left if only some origins have goods at first.
+func (c *course) left(origins set) room {
+	left := c.takes
 	// The edges into batches are the first ones.
 	for batch := range c.net.Batches {
 		if !sets.Has(origins, batch) {
-			left[2*batch] = 0
+			left[batch] = 0
 		}
 	}
 	return left
 }
 
 // most returns how many grams of some origins a place may have at most: as many as can flow there. All other goods of these origins have room elsewhere.
-func (c *course) most(origins set, target int) int {
-	left := c.open(origins)
-	met := make([]bool, len(c.arcs))
-	var send func(at, grams, least int) int
-	// Grams are sent to the target on one way, on arcs that each take at least so many.
-	send = func(at, grams, least int) int {
-		if at == target {
-			return grams
-		}
-		met[at] = true
-		for _, a := range c.arcs[at] {
-			if met[a.to] || left[a.number] < least {
-				continue
-			}
-			if sent := send(a.to, min(grams, left[a.number]), least); sent > 0 {
-				left[a.number] -= sent
-				left[a.number^1] += sent
-				return sent
-			}
-		}
-		return 0
-	}
-	most := 0
-	// The widest ways are taken first: few of them are enough then, however many grams there are.
-	for least := c.grams[target]; least > 0; {
-		clear(met)
-		sent := send(0, c.grams[target], least)
-		most += sent
-		if sent == 0 {
-			least /= 2
-		}
-	}
-	return most
+func (c *course) most(origins set, target place) int {
+	left := c.left(origins)
+	return c.flow.Most(place{batch: outside}, target, left[:])
 }
 
 // span returns the least and the greatest number of grams of some origins that a batch may have when so many moves are done.
 func (c *course) span(origins set, batch, done int) api.Span {
-	at := c.places[placeOf(c.net, batch, done)]
+	at := placeOf(c.net, batch, done)
 	// There is least of these origins where there is most of all others.
 	return api.Span{Lo: c.grams[at] - c.most(^origins, at), Hi: c.most(origins, at)}
 }
@@ -163,7 +115,7 @@ func (c *course) through(origins set) []api.Span {
 	spans := make([]api.Span, len(c.net.Moves))
 	for i, m := range c.net.Moves {
 		has := c.span(origins, m.From, i)
-		stays := c.grams[c.places[placeOf(c.net, m.From, i)]] - m.Grams
+		stays := c.grams[placeOf(c.net, m.From, i)] - m.Grams
 		spans[i] = api.Span{Lo: max(0, has.Lo-stays), Hi: min(has.Hi, m.Grams)}
 	}
 	return spans

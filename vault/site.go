@@ -4,6 +4,7 @@ import (
 	"iter"
 
 	"shambles/api"
+	"shambles/bounds"
 )
 
 // places hands out the places of a hall, those in front first, from the left to the right.
@@ -131,22 +132,12 @@ func count(l []api.Put, kind int) int {
 	return many
 }
 
-// sum returns the least and the greatest load that loads may be together.
-func sum(loads ...api.Span) api.Span {
-	var all api.Span
-	for _, load := range loads {
-		all.Lo += load.Lo
-		all.Hi += load.Hi
-	}
-	return all
-}
-
 // loads returns what each bay may carry.
 func (s *site) loads(l []api.Put) []api.Span {
 	carried := make([]api.Span, len(s.hall.Bears))
 	for _, p := range l {
 		bay := s.spot(p).bay
-		carried[bay] = sum(carried[bay], s.kind(p).Load)
+		carried[bay] = bounds.Sum(carried[bay], s.kind(p).Load)
 	}
 	return carried
 }
@@ -176,7 +167,7 @@ func (s *site) carries(l []api.Put, p api.Put) bool {
 	load := s.kind(p).Load
 	for _, q := range l {
 		if s.spot(q).bay == bay {
-			load = sum(load, s.kind(q).Load)
+			load = bounds.Sum(load, s.kind(q).Load)
 		}
 	}
 	return load.Hi <= s.hall.Bears[bay]
